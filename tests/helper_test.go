@@ -98,3 +98,11 @@ func filled(many int, n int) []int {
 	}
 	return m
 }
+
+// dice gives numbers of all kinds, the same ones at each run: each is worked out from the one ahead.
+type dice uint32
+
+func (d *dice) below(n int) int {
+	*d = *d*1664525 + 1013904223
+	return int(*d>>16) % n
+}

@@ -25,15 +25,14 @@ func marksUpTo(places int, most int) [][]int {
 	return l
 }
 
-// manyMarks has marks of all kinds, the same ones at each run: each number is worked out from the one ahead.
+// manyMarks has marks of all kinds, the same ones at each run.
 func manyMarks(places int, many int, most int) [][]int {
-	seed := uint32(places*1000 + many)
+	d := dice(places*1000 + many)
 	l := make([][]int, many)
 	for i := range l {
 		l[i] = make([]int, places)
 		for p := range l[i] {
-			seed = seed*1664525 + 1013904223
-			l[i][p] = int(seed>>16) % (most + 1)
+			l[i][p] = d.below(most + 1)
 		}
 	}
 	return l
