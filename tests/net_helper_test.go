@@ -106,19 +106,29 @@ func firePlainly(t impl.Trans, m []int) ([]int, bool) {
 	return behind, true
 }
 
-// fireAllPlainly is FireAll by its words; numbers that are none stop it.
-func fireAllPlainly(n impl.Net, m []int, seq []int) ([]int, int) {
-	for i, t := range seq {
+// fireAllPlainly is FireAll by its words, of a good net and a good mark of it.
+func fireAllPlainly(n impl.Net, m []int, seq []int) ([]int, int, bool) {
+	if len(seq) > impl.MaxSeq {
+		return nil, 0, false
+	}
+	for _, t := range seq {
 		if t < 0 || t >= len(n.Trans) {
-			return m, i
+			return nil, 0, false
 		}
+	}
+	for i, t := range seq {
 		behind, ok := firePlainly(n.Trans[t], m)
 		if !ok {
-			return m, i
+			return m, i, true
 		}
 		m = behind
 	}
-	return m, len(seq)
+	return m, len(seq), true
+}
+
+// wrongNumbers are no numbers of as many transitions; some of them are one where their upper bits are lost.
+func wrongNumbers(trans int) []int {
+	return []int{-1, trans, trans + 1, impl.MaxTrans, impl.MaxTrans + 1, 256, 1 << 32, 1<<32 + 1, -1 << 32, math.MinInt, math.MaxInt}
 }
 
 func sameNet(a, b impl.Net) bool {

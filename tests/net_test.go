@@ -289,20 +289,81 @@ func TestFireAll(t *testing.T) {
 		{[]int{2, 0, 0}, []int{0, 1, 0}, []int{0, 0, 1}, 2},
 		{[]int{0, 0, 0}, []int{0}, []int{0, 0, 0}, 0},
 		{[]int{2, 49, 0}, []int{0, 0, 0}, []int{1, 50, 0}, 1},
-		{[]int{2, 0, 0}, []int{0, 3, 0}, []int{1, 1, 0}, 1},
-		{[]int{2, 0, 0}, []int{0, -1, 0}, []int{1, 1, 0}, 1},
-		{[]int{2, 0, 0}, []int{3}, []int{2, 0, 0}, 0},
-		{[]int{2, 0, 0}, []int{-1, 0}, []int{2, 0, 0}, 0},
-		{[]int{2, 0, 0}, []int{0, 1, math.MaxInt}, []int{0, 0, 1}, 2},
-		{[]int{2, 0, 0}, []int{0, math.MinInt}, []int{1, 1, 0}, 1},
+		{[]int{2, 0, 0}, []int{0, 1, 2, 2}, []int{0, 0, 1}, 4},
+		{[]int{2, 0, 0}, []int{0, 0, 1, 1, 2}, []int{0, 0, 2}, 5},
+		{[]int{2, 0, 0}, []int{2, 2, 2}, []int{2, 0, 0}, 0},
 	}
 	for _, c := range cases {
 		if m, many, ok := impl.FireAll(n, c.m, c.seq); !ok || many != c.many || !slices.Equal(m, c.want) {
 			t.Errorf("FireAll %v in %v: %v %v %v", c.seq, c.m, m, many, ok)
 		}
 	}
-	if m, many, ok := impl.FireAll(impl.Net{Places: 1}, []int{4}, []int{0}); !ok || many != 0 || !slices.Equal(m, []int{4}) {
-		t.Errorf("FireAll without a transition: %v %v %v", m, many, ok)
+	for _, none := range [][]int{nil, {}} {
+		if m, many, ok := impl.FireAll(impl.Net{Places: 1}, []int{4}, none); !ok || many != 0 || !slices.Equal(m, []int{4}) {
+			t.Errorf("FireAll of none, without a transition: %v %v %v", m, many, ok)
+		}
+	}
+}
+
+// zeroOfSeq fails where FireAll tells something of a list of numbers, or writes into an argument.
+func zeroOfSeq(t *testing.T, what string, net impl.Net, mark []int, list []int) {
+	t.Helper()
+	n, m, seq := guardedNet(net), guardedList(mark), guardedList(list)
+	quietly(t, what, func() {
+		if x, many, ok := impl.FireAll(n, m, seq); len(x) != 0 || many != 0 || ok {
+			t.Errorf("FireAll %v in %v, %s: %v %v %v", list, mark, what, x, many, ok)
+		}
+	})
+	untouchedNet(t, what, n, net)
+	untouched(t, what, m, mark)
+	untouched(t, what, seq, list)
+}
+
+// A list with a number that is no transition's is wrong as a whole, wherever that number stands.
+func TestFireAllOfNumbersThatAreNone(t *testing.T) {
+	n := impl.Net{Places: 2, Trans: []impl.Trans{{In: []int{0}, Out: []int{1}}, {In: []int{1}, Out: []int{0}}}}
+	m := []int{1, 0}
+	for _, number := range wrongNumbers(len(n.Trans)) {
+		for _, c := range []struct {
+			what string
+			seq  []int
+		}{
+			{"alone", []int{number}},
+			{"at the first place", []int{number, 0, 1}},
+			{"in the midst", []int{0, number, 1}},
+			{"at the last place", []int{0, 1, number}},
+			{"behind the first that does not fire", []int{1, number}},
+			{"behind one that does not fire", []int{0, 0, number}},
+			{"far behind one that does not fire", []int{0, 0, 1, 0, 1, number, 0}},
+			{"at each place", []int{number, number, number}},
+			{"at the first place of MaxSeq", append([]int{number}, filled(impl.MaxSeq-1, 0)...)},
+			{"at the last place of MaxSeq", append(slices.Repeat([]int{0, 1}, impl.MaxSeq/2)[:impl.MaxSeq-1], number)},
+			{"at the last place of MaxSeq that do not fire", append(filled(impl.MaxSeq-1, 1), number)},
+			{"behind MaxSeq", append(slices.Repeat([]int{0, 1}, impl.MaxSeq/2), number)},
+		} {
+			zeroOfSeq(t, c.what, n, m, c.seq)
+		}
+		zeroOfSeq(t, "in a mark without tokens", n, []int{0, 0}, []int{0, number})
+	}
+	for _, number := range wrongNumbers(0) {
+		zeroOfSeq(t, "alone, without transitions", impl.Net{Places: 1}, []int{1}, []int{number})
+		zeroOfSeq(t, "the last of some, without transitions", impl.Net{Places: 1, Trans: []impl.Trans{}}, []int{1}, []int{0, number})
+	}
+}
+
+// The greatest number that a list may have is that of the last transition, however many there are.
+func TestFireAllAtTheLastTransition(t *testing.T) {
+	for trans := range impl.MaxTrans + 1 {
+		n := impl.Net{Places: 1, Trans: slices.Repeat([]impl.Trans{{In: []int{0}}}, trans)}
+		for number := -2; number <= impl.MaxTrans+2; number++ {
+			if number < 0 || number >= trans {
+				zeroOfSeq(t, "beside the last transition", n, []int{3}, []int{number})
+				continue
+			}
+			if m, many, ok := impl.FireAll(n, []int{3}, []int{number, number}); !ok || many != 2 || !slices.Equal(m, []int{1}) {
+				t.Errorf("FireAll %d of %d transitions: %v %v %v", number, trans, m, many, ok)
+			}
+		}
 	}
 }
 
@@ -323,28 +384,40 @@ func TestFireAllAtItsLimit(t *testing.T) {
 	}
 }
 
-// Sequences of all kinds, with numbers that are none among them.
+// Sequences of all kinds, with numbers that are none in some of them.
 func TestFireAllAsOneByOne(t *testing.T) {
 	d := dice(4)
-	stopped, through := 0, 0
+	stopped, through, wrong, wrongBehind := 0, 0, 0, 0
 	for places := 1; places <= impl.MaxPlaces; places++ {
-		for range 40 {
+		for range 60 {
 			n := someNet(&d, places, 1+d.below(impl.MaxTrans), true)
 			m := someMark(&d, places, impl.MaxTokens)
-			seq := someSeq(&d, d.below(impl.MaxSeq+1), len(n.Trans)+d.below(2))
-			want, times := fireAllPlainly(n, m, seq)
-			if got, many, ok := impl.FireAll(n, m, seq); !ok || many != times || !slices.Equal(got, want) {
-				t.Fatalf("FireAll %v of %v in %v: %v %v %v, not %v %v", seq, n, m, got, many, ok, want, times)
+			seq := someSeq(&d, d.below(impl.MaxSeq+1), len(n.Trans))
+			_, fires, _ := fireAllPlainly(n, m, seq)
+			if len(seq) > 0 && d.below(3) == 0 {
+				none := wrongNumbers(len(n.Trans))
+				at := d.below(len(seq))
+				seq[at] = none[d.below(len(none))]
+				if at > fires {
+					wrongBehind++
+				}
 			}
-			if times < len(seq) {
+			want, times, is := fireAllPlainly(n, m, seq)
+			if got, many, ok := impl.FireAll(n, m, seq); ok != is || many != times || !slices.Equal(got, want) {
+				t.Fatalf("FireAll %v of %v in %v: %v %v %v, not %v %v %v", seq, n, m, got, many, ok, want, times, is)
+			}
+			switch {
+			case !is:
+				wrong++
+			case times < len(seq):
 				stopped++
-			} else {
+			default:
 				through++
 			}
 		}
 	}
-	if stopped < 100 || through < 40 {
-		t.Errorf("only %d stopped, %d went through", stopped, through)
+	if stopped < 100 || through < 40 || wrong < 100 || wrongBehind < 40 {
+		t.Errorf("only %d stopped, %d went through, %d were wrong, %d of these behind the last that fired", stopped, through, wrong, wrongBehind)
 	}
 }
 
