@@ -79,6 +79,14 @@ func (t tokens) list(places int) []int {
 	return m
 }
 
+func listsOfTokens(places int, marks []tokens) [][]int {
+	l := make([][]int, len(marks))
+	for i, t := range marks {
+		l[i] = t.list(places)
+	}
+	return l
+}
+
 func (t tokens) covers(u tokens) bool {
 	for i := range t {
 		if t[i] < u[i] {
@@ -187,12 +195,7 @@ func LeastMarks(places int, l [][]int) ([][]int, bool) {
 		}
 		all[i] = t
 	}
-	least := leastTokens(all)
-	out := make([][]int, len(least))
-	for i, t := range least {
-		out[i] = t.list(places)
-	}
-	return out, true
+	return listsOfTokens(places, leastTokens(all)), true
 }
 
 func MarkText(places int, m []int) (string, bool) {
