@@ -134,21 +134,10 @@ func TestBasesAreNew(t *testing.T) {
 	layers, _ := layersPlainly(was, to, impl.MaxBasis)
 	want := layers[len(layers)-1]
 	n, m := guardedNet(was), guardedList(to)
-	for i := range want {
-		l, ok := impl.BackBasis(n, m, impl.MaxBasis)
-		if !ok || !sameRows(l, want) {
-			t.Fatalf("BackBasis: %v %v", l, ok)
-		}
-		kept := cloneRows(l)
-		scribble(l[i])
-		l[i], kept[i] = nil, nil
-		if !sameRows(l, kept) {
-			t.Errorf("lists of an answer share memory: %v, it was %v", l, kept)
-		}
-		scribbleRows(l)
+	rowsOwnMemory(t, "BackBasis", want, func() ([][]int, bool) { return impl.BackBasis(n, m, impl.MaxBasis) }, func() {
 		untouchedNet(t, "BackBasis", n, was)
 		untouched(t, "BackBasis", m, to)
-	}
+	})
 }
 
 // A basis of the mark alone is new memory too.

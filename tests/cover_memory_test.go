@@ -22,29 +22,14 @@ func TestCoversOfWrongNets(t *testing.T) {
 
 // Nets that empty a place, be it by a transition that is never enabled, are none of this chapter; lists of Reset that are empty do not count.
 func TestCoversOfNetsWithResets(t *testing.T) {
-	plain := impl.Trans{In: []int{0}, Out: []int{1}}
-	cases := []struct {
-		what  string
-		trans []impl.Trans
-	}{
-		{"the only one", []impl.Trans{{In: []int{0}, Reset: []int{1}}}},
-		{"a place of its own", []impl.Trans{{In: []int{0}, Reset: []int{0}}}},
-		{"all places", []impl.Trans{{In: []int{0}, Out: []int{1}, Reset: []int{0, 1, 2}}}},
-		{"the first", []impl.Trans{{In: []int{0}, Reset: []int{2}}, plain}},
-		{"the last", []impl.Trans{plain, {In: []int{0}, Reset: []int{0}}}},
-		{"one that is never enabled", []impl.Trans{plain, {In: []int{2}, Out: []int{2}, Reset: []int{2}}}},
-		{"the last of MaxTrans", append(slices.Repeat([]impl.Trans{plain}, impl.MaxTrans-1), impl.Trans{In: []int{0}, Reset: []int{2}})},
-	}
-	for _, c := range cases {
-		was := impl.Net{Places: 3, Trans: c.trans}
-		n, start, m := guardedNet(was), guardedList([]int{1, 0, 0}), guardedList([]int{0, 0, 0})
+	for _, c := range resetNets() {
+		n, start, m := guardedNet(c.n), guardedList([]int{1, 0, 0}), guardedList([]int{0, 0, 0})
 		quietly(t, c.what, func() { zeroOfCover(t, c.what, n, start, impl.MaxNodes, m) })
-		untouchedNet(t, c.what, n, was)
+		untouchedNet(t, c.what, n, c.n)
 		untouched(t, c.what, start, []int{1, 0, 0})
 		untouched(t, c.what, m, []int{0, 0, 0})
 	}
-	empty := impl.Net{Places: 3, Trans: []impl.Trans{{In: []int{0}, Out: []int{1}, Reset: []int{}}, plain}}
-	if l, ok := impl.CoverTree(empty, []int{1, 0, 0}, 3); !ok || len(l) != 3 {
+	if l, ok := impl.CoverTree(emptyResetNet(), []int{1, 0, 0}, 3); !ok || len(l) != 3 {
 		t.Error("empty lists of Reset", l, ok)
 	}
 }

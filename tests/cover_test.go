@@ -421,23 +421,9 @@ func checkEnd(t *testing.T, n impl.Net, start []int) int {
 	return end
 }
 
-// transWithoutResets has all transitions of some places that empty none.
-func transWithoutResets(places int) []impl.Trans {
-	return slices.DeleteFunc(transOf(places), func(t impl.Trans) bool { return len(t.Reset) > 0 })
-}
-
 // All nets with up to two transitions of one place and of two, from all marks of few tokens and of nearly too many.
 func TestAllSmallCovers(t *testing.T) {
-	nets := []impl.Net{{Places: 1}, {Places: 2}}
-	for places := 1; places <= 2; places++ {
-		for _, a := range transWithoutResets(places) {
-			nets = append(nets, impl.Net{Places: places, Trans: []impl.Trans{a}})
-			for _, b := range transWithoutResets(places) {
-				nets = append(nets, impl.Net{Places: places, Trans: []impl.Trans{a, b}})
-			}
-		}
-	}
-	for _, n := range nets {
+	for _, n := range smallNets(2) {
 		for _, start := range marksUpTo(n.Places, 2) {
 			for _, budget := range []int{1, 2, 3, 4, 5, 7, 12, impl.MaxNodes} {
 				checkCover(t, n, start, budget)

@@ -68,6 +68,25 @@ func scribbleRows(l [][]int) {
 	clear(l[:cap(l)])
 }
 
+// rowsOwnMemory asks for as many lists as are wanted again and again, and writes over one of them each time, up to its capacity, and then over all: no other one is changed by it, and no argument, as untouched holds.
+func rowsOwnMemory(t *testing.T, what string, want [][]int, ask func() ([][]int, bool), untouched func()) {
+	t.Helper()
+	for i := range want {
+		l, ok := ask()
+		if !ok || !sameRows(l, want) {
+			t.Fatalf("%s: %v %v", what, l, ok)
+		}
+		kept := cloneRows(l)
+		scribble(l[i])
+		l[i], kept[i] = nil, nil
+		if !sameRows(l, kept) {
+			t.Errorf("%s: lists of an answer share memory: %v, it was %v", what, l, kept)
+		}
+		scribbleRows(l)
+		untouched()
+	}
+}
+
 // quietly calls f and fails where it panics.
 func quietly(t *testing.T, what string, f func()) {
 	t.Helper()

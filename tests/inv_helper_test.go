@@ -37,11 +37,11 @@ func countsPlainly(trans int, seq []int) []int {
 	return counts
 }
 
-// weightOfPlaces adds the weights of some places.
-func weightOfPlaces(weights []int, places []int) int {
+// sumAt adds the numbers of some places.
+func sumAt(numbers []int, places []int) int {
 	sum := 0
 	for _, p := range places {
-		sum += weights[p]
+		sum += numbers[p]
 	}
 	return sum
 }
@@ -49,7 +49,7 @@ func weightOfPlaces(weights []int, places []int) int {
 // invariantPlainly is IsInvariant by its words, of a net and weights of it as said.
 func invariantPlainly(n impl.Net, weights []int) bool {
 	return !slices.ContainsFunc(n.Trans, func(t impl.Trans) bool {
-		return weightOfPlaces(weights, t.In) != weightOfPlaces(weights, t.Out)
+		return sumAt(weights, t.In) != sumAt(weights, t.Out)
 	})
 }
 
@@ -136,7 +136,7 @@ func keepingNet(d *dice, weights []int, trans int) impl.Net {
 	n := impl.Net{Places: len(weights)}
 	for range 20 * trans {
 		t := someNet(d, n.Places, 1, false).Trans[0]
-		if len(n.Trans) < trans && weightOfPlaces(weights, t.In) == weightOfPlaces(weights, t.Out) {
+		if len(n.Trans) < trans && sumAt(weights, t.In) == sumAt(weights, t.Out) {
 			n.Trans = append(n.Trans, t)
 		}
 	}

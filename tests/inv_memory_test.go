@@ -23,29 +23,16 @@ func TestInvOfWrongNets(t *testing.T) {
 
 // Nets that empty a place, be it by a transition that is never enabled, are none of this chapter; lists of Reset that are empty do not count.
 func TestInvOfNetsWithResets(t *testing.T) {
-	plain := impl.Trans{In: []int{0}, Out: []int{1}}
-	cases := []struct {
-		what  string
-		trans []impl.Trans
-	}{
-		{"the only one", []impl.Trans{{In: []int{0}, Reset: []int{1}}}},
-		{"a place of its own", []impl.Trans{{In: []int{0}, Reset: []int{0}}}},
-		{"all places", []impl.Trans{{In: []int{0}, Out: []int{1}, Reset: []int{0, 1, 2}}}},
-		{"the first", []impl.Trans{{In: []int{0}, Reset: []int{2}}, plain}},
-		{"the last", []impl.Trans{plain, {In: []int{0}, Reset: []int{0}}}},
-		{"one that is never enabled", []impl.Trans{plain, {In: []int{2}, Out: []int{2}, Reset: []int{2}}}},
-		{"the last of MaxTrans", append(slices.Repeat([]impl.Trans{plain}, impl.MaxTrans-1), impl.Trans{In: []int{0}, Reset: []int{2}})},
-	}
-	for _, c := range cases {
-		was, zeros := impl.Net{Places: 3, Trans: c.trans}, filled(len(c.trans), 0)
-		n, counts, weights, m := guardedNet(was), guardedList(zeros), guardedList([]int{1, 1, 0}), guardedList([]int{0, 0, 0})
+	for _, c := range resetNets() {
+		zeros := filled(len(c.n.Trans), 0)
+		n, counts, weights, m := guardedNet(c.n), guardedList(zeros), guardedList([]int{1, 1, 0}), guardedList([]int{0, 0, 0})
 		quietly(t, c.what, func() { zeroOfInv(t, c.what, n, counts, weights, m) })
-		untouchedNet(t, c.what, n, was)
+		untouchedNet(t, c.what, n, c.n)
 		untouched(t, c.what, counts, zeros)
 		untouched(t, c.what, weights, []int{1, 1, 0})
 		untouched(t, c.what, m, []int{0, 0, 0})
 	}
-	empty := impl.Net{Places: 3, Trans: []impl.Trans{{In: []int{0}, Out: []int{1}, Reset: []int{}}, plain}}
+	empty := emptyResetNet()
 	if l, ok := impl.SmallInvariants(empty); !ok || !sameRows(l, [][]int{{0, 1}, {2}}) {
 		t.Error("empty lists of Reset", l, ok)
 	}
@@ -159,22 +146,8 @@ func TestSmallInvariantsAreNew(t *testing.T) {
 		{Places: 3},
 		{Places: 6, Trans: []impl.Trans{{In: []int{0}, Out: []int{1}}, {In: []int{1}, Out: []int{2}}}},
 	} {
-		want := smallPlainly(was)
 		n := guardedNet(was)
-		for i := range want {
-			l, ok := impl.SmallInvariants(n)
-			if !ok || !sameRows(l, want) {
-				t.Fatalf("SmallInvariants: %v %v", l, ok)
-			}
-			kept := cloneRows(l)
-			scribble(l[i])
-			l[i], kept[i] = nil, nil
-			if !sameRows(l, kept) {
-				t.Errorf("lists of an answer share memory: %v, it was %v", l, kept)
-			}
-			scribbleRows(l)
-			untouchedNet(t, "SmallInvariants", n, was)
-		}
+		rowsOwnMemory(t, "SmallInvariants", smallPlainly(was), func() ([][]int, bool) { return impl.SmallInvariants(n) }, func() { untouchedNet(t, "SmallInvariants", n, was) })
 	}
 }
 

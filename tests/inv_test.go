@@ -290,39 +290,35 @@ func rowNet(places int) impl.Net {
 
 // invCases has them by how they come about.
 func invCases() []invCase {
-	step := func(in []int, out ...int) impl.Trans { return impl.Trans{In: in, Out: out} }
-	net := func(places int, trans ...impl.Trans) impl.Net { return impl.Net{Places: places, Trans: trans} }
 	return []invCase{
-		{"none", net(1, step([]int{0})), nil, false},
-		{"none of two places", net(2, step([]int{0}), step([]int{0}, 0, 1)), nil, false},
-		{"none, as what is given goes elsewhere", net(3, step([]int{0}, 1, 2), step([]int{1}, 0), step([]int{2}, 0)), nil, false},
-		{"one place, no transition", net(1), singles(1), true},
+		{"none", netOf(1, stepOf([]int{0})), nil, false},
+		{"none of two places", netOf(2, stepOf([]int{0}), stepOf([]int{0}, 0, 1)), nil, false},
+		{"none, as what is given goes elsewhere", netOf(3, stepOf([]int{0}, 1, 2), stepOf([]int{1}, 0), stepOf([]int{2}, 0)), nil, false},
+		{"one place, no transition", netOf(1), singles(1), true},
 		{"one place alone that gives back", loopNet(), singles(1), true},
-		{"one place alone that no transition has", net(2, step([]int{0})), [][]int{{1}}, false},
+		{"one place alone that no transition has", netOf(2, stepOf([]int{0})), [][]int{{1}}, false},
 		{"one place alone that goes along", growNet(2, 1), [][]int{{0}}, false},
-		{"three places, no transition", net(3), singles(3), true},
+		{"three places, no transition", netOf(3), singles(3), true},
 		{"a row", flowWith(3).Net, [][]int{{0, 1, 2}}, true},
 		{"a ring", ringNet(), [][]int{{0, 1}}, false},
-		{"two that share a place, by a fork", net(3, step([]int{0}, 1, 2)), [][]int{{0, 1}, {0, 2}}, true},
-		{"two that share a place, by a join", net(3, step([]int{0, 1}, 2)), [][]int{{0, 2}, {1, 2}}, true},
-		{"fork and join", net(4, step([]int{0}, 1, 2), step([]int{1, 2}, 3)), [][]int{{0, 1, 3}, {0, 2, 3}}, true},
-		{"four that share places", net(4, step([]int{0, 1}, 2, 3)), [][]int{{0, 2}, {1, 2}, {0, 3}, {1, 3}}, true},
-		{"both sides the same", net(2, step([]int{0, 1}, 0, 1)), singles(2), true},
-		{"a set that holds two others is left out", net(4, step([]int{0}, 1), step([]int{2}, 3)), [][]int{{0, 1}, {2, 3}}, true},
-		{"a set that holds one place alone is left out", net(4, step([]int{0}, 2), step([]int{2}, 3)), [][]int{{1}, {0, 2, 3}}, true},
-		{"a set that holds another one, whose rest is none", net(3, step([]int{0}, 1), step([]int{2})), [][]int{{0, 1}}, false},
-		{"a choice", net(3, step([]int{0}, 1), step([]int{0}, 2)), [][]int{{0, 1, 2}}, true},
-		{"two ways to the same", net(4, step([]int{0}, 1), step([]int{0}, 2), step([]int{1}, 3), step([]int{2}, 3)), [][]int{{0, 1, 2, 3}}, true},
-		{"the second transition undoes it", net(2, step([]int{0}, 1), step([]int{1})), nil, false},
-		{"one place is in none", net(3, step([]int{0}, 1, 2), step([]int{2})), [][]int{{0, 1}}, false},
+		{"two that share a place, by a fork", netOf(3, stepOf([]int{0}, 1, 2)), [][]int{{0, 1}, {0, 2}}, true},
+		{"two that share a place, by a join", netOf(3, stepOf([]int{0, 1}, 2)), [][]int{{0, 2}, {1, 2}}, true},
+		{"fork and join", netOf(4, stepOf([]int{0}, 1, 2), stepOf([]int{1, 2}, 3)), [][]int{{0, 1, 3}, {0, 2, 3}}, true},
+		{"four that share places", netOf(4, stepOf([]int{0, 1}, 2, 3)), [][]int{{0, 2}, {1, 2}, {0, 3}, {1, 3}}, true},
+		{"both sides the same", netOf(2, stepOf([]int{0, 1}, 0, 1)), singles(2), true},
+		{"a set that holds two others is left out", netOf(4, stepOf([]int{0}, 1), stepOf([]int{2}, 3)), [][]int{{0, 1}, {2, 3}}, true},
+		{"a set that holds one place alone is left out", netOf(4, stepOf([]int{0}, 2), stepOf([]int{2}, 3)), [][]int{{1}, {0, 2, 3}}, true},
+		{"a set that holds another one, whose rest is none", netOf(3, stepOf([]int{0}, 1), stepOf([]int{2})), [][]int{{0, 1}}, false},
+		{"a choice", netOf(3, stepOf([]int{0}, 1), stepOf([]int{0}, 2)), [][]int{{0, 1, 2}}, true},
+		{"two ways to the same", netOf(4, stepOf([]int{0}, 1), stepOf([]int{0}, 2), stepOf([]int{1}, 3), stepOf([]int{2}, 3)), [][]int{{0, 1, 2, 3}}, true},
+		{"the second transition undoes it", netOf(2, stepOf([]int{0}, 1), stepOf([]int{1})), nil, false},
+		{"one place is in none", netOf(3, stepOf([]int{0}, 1, 2), stepOf([]int{2})), [][]int{{0, 1}}, false},
 	}
 }
 
 // invCasesOfOrder are of sets whose order is told by numbers alone, and of as many places as there may be.
 func invCasesOfOrder() []invCase {
-	step := func(in []int, out ...int) impl.Trans { return impl.Trans{In: in, Out: out} }
-	net := func(places int, trans ...impl.Trans) impl.Net { return impl.Net{Places: places, Trans: trans} }
-	pairs := net(10, step([]int{0}, 9), step([]int{1}, 8), step([]int{2}, 7), step([]int{3}, 6), step([]int{4}, 5))
+	pairs := netOf(10, stepOf([]int{0}, 9), stepOf([]int{1}, 8), stepOf([]int{2}, 7), stepOf([]int{3}, 6), stepOf([]int{4}, 5))
 	var crossed [][]int
 	for p := 5; p < 10; p++ {
 		for q := range 5 {
@@ -330,20 +326,20 @@ func invCasesOfOrder() []invCase {
 		}
 	}
 	return []invCase{
-		{"the one whose greatest place is less goes ahead", net(4, step([]int{1}, 2), step([]int{0}, 3)), [][]int{{1, 2}, {0, 3}}, true},
-		{"a longer one goes ahead", net(4, step([]int{0}, 1), step([]int{1}, 2)), [][]int{{0, 1, 2}, {3}}, true},
-		{"a shorter one goes ahead", net(4, step([]int{1}, 2), step([]int{2}, 3)), [][]int{{0}, {1, 2, 3}}, true},
-		{"the second greatest place counts where the greatest are alike", net(4, step([]int{3}, 1, 2), step([]int{0}, 0)), [][]int{{0}, {1, 3}, {2, 3}}, true},
-		{"the third, too", net(5, step([]int{4}, 3), step([]int{3}, 1, 2)), [][]int{{0}, {1, 3, 4}, {2, 3, 4}}, true},
-		{"the numbers are as much in all", net(5, step([]int{2}, 3), step([]int{0}, 1), step([]int{1}, 4)), [][]int{{2, 3}, {0, 1, 4}}, true},
-		{"10 places, no transition", net(maxInvPlaces), singles(maxInvPlaces), true},
+		{"the one whose greatest place is less goes ahead", netOf(4, stepOf([]int{1}, 2), stepOf([]int{0}, 3)), [][]int{{1, 2}, {0, 3}}, true},
+		{"a longer one goes ahead", netOf(4, stepOf([]int{0}, 1), stepOf([]int{1}, 2)), [][]int{{0, 1, 2}, {3}}, true},
+		{"a shorter one goes ahead", netOf(4, stepOf([]int{1}, 2), stepOf([]int{2}, 3)), [][]int{{0}, {1, 2, 3}}, true},
+		{"the second greatest place counts where the greatest are alike", netOf(4, stepOf([]int{3}, 1, 2), stepOf([]int{0}, 0)), [][]int{{0}, {1, 3}, {2, 3}}, true},
+		{"the third, too", netOf(5, stepOf([]int{4}, 3), stepOf([]int{3}, 1, 2)), [][]int{{0}, {1, 3, 4}, {2, 3, 4}}, true},
+		{"the numbers are as much in all", netOf(5, stepOf([]int{2}, 3), stepOf([]int{0}, 1), stepOf([]int{1}, 4)), [][]int{{2, 3}, {0, 1, 4}}, true},
+		{"10 places, no transition", netOf(maxInvPlaces), singles(maxInvPlaces), true},
 		{"10 places, one set", rowNet(maxInvPlaces), [][]int{numbersTo(maxInvPlaces)}, true},
-		{"10 places, all but the last", net(10, append(rowNet(9).Trans, step([]int{9}))...), [][]int{numbersTo(9)}, false},
-		{"10 places, the last alone", net(10, append(rowNet(9).Trans, step([]int{0}))...), [][]int{{9}}, false},
+		{"10 places, all but the last", netOf(10, append(rowNet(9).Trans, stepOf([]int{9}))...), [][]int{numbersTo(9)}, false},
+		{"10 places, the last alone", netOf(10, append(rowNet(9).Trans, stepOf([]int{0}))...), [][]int{{9}}, false},
 		{"10 places, one in none", gridNet(maxInvPlaces), nil, false},
 		{"10 places in pairs", pairs, [][]int{{4, 5}, {3, 6}, {2, 7}, {1, 8}, {0, 9}}, true},
-		{"10 places, 25 sets", net(10, step(numbersTo(5), 5, 6, 7, 8, 9)), crossed, true},
-		{"10 places, MaxTrans", net(10, slices.Repeat([]impl.Trans{step(numbersTo(9), 9)}, impl.MaxTrans)...), crossedWith(9), true},
+		{"10 places, 25 sets", netOf(10, stepOf(numbersTo(5), 5, 6, 7, 8, 9)), crossed, true},
+		{"10 places, MaxTrans", netOf(10, slices.Repeat([]impl.Trans{stepOf(numbersTo(9), 9)}, impl.MaxTrans)...), crossedWith(9), true},
 	}
 }
 
@@ -400,16 +396,7 @@ func checkSmall(t *testing.T, n impl.Net) [][]int {
 
 // All nets with up to two transitions of one place and of two, and with one of three, with all small weights and some counts.
 func TestAllSmallInvariants(t *testing.T) {
-	nets := []impl.Net{{Places: 1}, {Places: 2}, {Places: 3}}
-	for places := 1; places <= 3; places++ {
-		for _, a := range transWithoutResets(places) {
-			nets = append(nets, impl.Net{Places: places, Trans: []impl.Trans{a}})
-			for _, b := range transWithoutResets(places) {
-				nets = append(nets, impl.Net{Places: places, Trans: []impl.Trans{a, b}})
-			}
-		}
-	}
-	for _, n := range nets {
+	for _, n := range smallNets(3) {
 		checkSmall(t, n)
 		for _, m := range marksUpTo(n.Places, 4) {
 			for p := range m {

@@ -33,6 +33,37 @@ func transOf(places int) []impl.Trans {
 	return l
 }
 
+// transWithoutResets has all transitions of some places that empty none.
+func transWithoutResets(places int) []impl.Trans {
+	return slices.DeleteFunc(transOf(places), func(t impl.Trans) bool { return len(t.Reset) > 0 })
+}
+
+// smallNets has all nets of up to so many places with up to two transitions that empty nothing.
+func smallNets(most int) []impl.Net {
+	var nets []impl.Net
+	for places := 1; places <= most; places++ {
+		nets = append(nets, netOf(places))
+		all := transWithoutResets(places)
+		for _, a := range all {
+			nets = append(nets, netOf(places, a))
+			for _, b := range all {
+				nets = append(nets, netOf(places, a, b))
+			}
+		}
+	}
+	return nets
+}
+
+// stepOf is a transition that empties nothing.
+func stepOf(in []int, out ...int) impl.Trans {
+	return impl.Trans{In: in, Out: out}
+}
+
+// netOf is a net of such transitions, or of others.
+func netOf(places int, trans ...impl.Trans) impl.Net {
+	return impl.Net{Places: places, Trans: trans}
+}
+
 // someList has each of some places about once in so many.
 func someList(d *dice, places int, onceIn int) []int {
 	var l []int
@@ -230,6 +261,27 @@ func wrongNets() []wrongNet {
 		)
 	}
 	return l
+}
+
+// resetNets are good nets of three places that empty one, be it by a transition that is never enabled.
+func resetNets() []wrongNet {
+	plain := stepOf([]int{0}, 1)
+	cases := []wrongNet{
+		{"the only one", netOf(3, impl.Trans{In: []int{0}, Reset: []int{1}})},
+		{"a place of its own", netOf(3, impl.Trans{In: []int{0}, Reset: []int{0}})},
+		{"a place that is given back", netOf(3, impl.Trans{In: []int{0}, Out: []int{0}, Reset: []int{0}})},
+		{"all places", netOf(3, impl.Trans{In: []int{0}, Out: []int{1}, Reset: []int{0, 1, 2}})},
+		{"the first", netOf(3, impl.Trans{In: []int{0}, Reset: []int{2}}, plain)},
+		{"the last", netOf(3, plain, impl.Trans{In: []int{0}, Reset: []int{0}})},
+		{"one that is never enabled", netOf(3, plain, impl.Trans{In: []int{2}, Out: []int{2}, Reset: []int{2}})},
+	}
+	last := append(slices.Repeat([]impl.Trans{plain}, impl.MaxTrans-1), impl.Trans{In: []int{0}, Reset: []int{2}})
+	return append(cases, wrongNet{"the last of MaxTrans", netOf(3, last...)})
+}
+
+// emptyResetNet has lists of Reset that are empty: it empties nothing.
+func emptyResetNet() impl.Net {
+	return netOf(3, impl.Trans{In: []int{0}, Out: []int{1}, Reset: []int{}}, stepOf([]int{0}, 1))
 }
 
 // markBeside is a good mark of as many places as a wrong net's, where there is one.
